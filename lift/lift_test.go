@@ -100,38 +100,35 @@ func scattered(seed uint64, n, b int) []int {
 	return x
 }
 
-// P4.1, P4.5
+// compare checks that the subbands of a signal are those of the formulas, and that they restore it.
+func compare(t *testing.T, x []int, start int, k api.Kernel) {
+	t.Helper()
+	low, high, e := lift.Forward(x, start, k)
+	wantLow, wantHigh := table(x, start, k)
+	if e != api.OK || !slices.Equal(low, wantLow) || !slices.Equal(high, wantHigh) {
+		t.Fatalf("Forward(%v, %d, %d) = %v, %v, %d; expected %v, %v", x, start, k, low, high, e, wantLow, wantHigh)
+	}
+	if back, e := lift.Inverse(low, high, start, k); e != api.OK || !slices.Equal(back, x) {
+		t.Fatalf("Inverse(%v, %v, %d, %d) = %v, %d; expected %v", low, high, start, k, back, e, x)
+	}
+}
+
+// P4.1, P4.2, P4.5
 func TestSmallSignals(t *testing.T) {
 	for _, k := range kernels {
 		signals(6, []int{-9, -2, 0, 7}, func(x []int) {
-			for start := range 2 {
-				low, high, e := lift.Forward(x, start, k)
-				wantLow, wantHigh := table(x, start, k)
-				if e != api.OK || !slices.Equal(low, wantLow) || !slices.Equal(high, wantHigh) {
-					t.Fatalf("Forward(%v, %d, %d) = %v, %v, %d; expected %v, %v", x, start, k, low, high, e, wantLow, wantHigh)
-				}
-				if back, e := lift.Inverse(low, high, start, k); e != api.OK || !slices.Equal(back, x) {
-					t.Fatalf("Inverse(%v, %v, %d, %d) = %v, %d; expected %v", low, high, start, k, back, e, x)
-				}
-			}
+			compare(t, x, 0, k)
+			compare(t, x, 1, k)
 		})
 	}
 }
 
-// P4.1, P4.5
+// P4.1, P4.2, P4.5
 func TestLongerSignals(t *testing.T) {
 	for _, k := range kernels {
 		for n := 7; n <= 40; n++ {
 			for _, start := range []int{0, 1, 6, 13, api.MaxSide - 1, api.MaxSide} {
-				x := scattered(uint64(n*100+start), n, 300)
-				low, high, e := lift.Forward(x, start, k)
-				wantLow, wantHigh := table(x, start, k)
-				if e != api.OK || !slices.Equal(low, wantLow) || !slices.Equal(high, wantHigh) {
-					t.Fatalf("Forward(%v, %d, %d) = %v, %v, %d; expected %v, %v", x, start, k, low, high, e, wantLow, wantHigh)
-				}
-				if back, e := lift.Inverse(low, high, start, k); e != api.OK || !slices.Equal(back, x) {
-					t.Fatalf("Inverse(%v, %v, %d, %d) = %v, %d; expected %v", low, high, start, k, back, e, x)
-				}
+				compare(t, scattered(uint64(n*100+start), n, 300), start, k)
 			}
 		}
 	}
